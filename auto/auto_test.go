@@ -408,6 +408,15 @@ func TestFromMachines(t *testing.T) {
 	if done[api.OK] == 0 || done[api.ErrLarge] == 0 {
 		t.Errorf("what was tried: %v", done)
 	}
+	for _, m := range []Machine{morse, seven} {
+		later, e := Later(m, 100)
+		every, f := Every(m, 30, 100)
+		if e != api.OK && e != api.ErrLarge || f != api.OK && f != api.ErrLarge {
+			t.Errorf("Later of %v: %d, %d", m, e, f)
+		}
+		wantMachine(t, "Later", later, e, m.Base, func(n int64) int { return number(m, 0, n+100) })
+		wantMachine(t, "Every", every, f, m.Base, func(n int64) int { return number(m, 0, 30*n+100) })
+	}
 	if x, e := Every(morse, 2, 0); !reflect.DeepEqual(x, Morse()) || e != api.OK {
 		t.Errorf("Every of Morse: %v", x)
 	}
@@ -532,6 +541,34 @@ func TestIsRound(t *testing.T) {
 				t.Errorf("FindRound of %v: %d, %d", m, q, p)
 			}
 		}
+	}
+	// n = 59 is the last number that is unlike all others, or n = 60
+	for _, x := range []struct {
+		digits [3]int
+		found  bool
+	}{{[3]int{4, 1, 2}, true}, {[3]int{0, 2, 2}, false}} {
+		m := Machine{5, []int{0, 0, 0, 1, 0}, [][]int{numbers(5, 4), numbers(5, 4), numbers(5, 4), {3, 4, 4, 4, 4}, numbers(5, 4)}}
+		for s, digit := range x.digits {
+			m.Next[s][digit] = s + 1
+		}
+		q, p, found, e := FindRound(m)
+		if found != x.found || e != api.OK || found && (q != 60 || p != 1) || !found && q+p != 0 {
+			t.Errorf("FindRound of %v: %d, %d, %t", m, q, p, found)
+		}
+		if is, e := IsRound(m, 61, 1); !is || e != api.OK {
+			t.Errorf("IsRound of %v: %t", m, is)
+		}
+	}
+	table := tables(10, 10, 0)
+	table[1][1] = 1
+	five, e := Round(5, nil, []int{1, 0, 0, 0, 0})
+	six, f := Round(5, nil, []int{1, 0, 0, 0, 0, 0})
+	thirty, g := Both(five, six, table)
+	if q, p, found, h := FindRound(thirty); q != 0 || p != 30 || !found || e+f+g+h != api.OK {
+		t.Errorf("FindRound of thirty: %d, %d, %t, %d", q, p, found, e+f+g+h)
+	}
+	if is, e := IsRound(morse, 100, 100); is || e != api.OK {
+		t.Errorf("IsRound of Morse: %t", is)
 	}
 	if q, p, found, e := FindRound(morse); q != 0 || p != 0 || found || e != api.OK {
 		t.Errorf("FindRound of Morse: %d, %d", q, p)

@@ -133,7 +133,7 @@ func TestUnits(t *testing.T) {
 
 func TestGates(t *testing.T) {
 	g := New()
-	talk(t, g, "gate 0 = error 80", "gate 1001 = error 80", "gate -1 = error 80", "gate 5 = ok", "gate 1 = ok", "worst = worst 6")
+	talk(t, g, "gate 0 = error 80", "gate 1001 = error 80", "gate -1 = error 80", "gate 1000000 = error 80", "gate -1000000 = error 80", "gate 5 = ok", "gate 1 = ok", "worst = worst 6")
 	if got := fmt.Sprint(g.Costs()); got != "[5 1]" {
 		t.Errorf("Costs: %s", got)
 	}
@@ -147,6 +147,10 @@ func TestWires(t *testing.T) {
 	g := New()
 	talk(t, g, "wire 3 0 0 = error 1", "wire 0 3 0 = error 1", "wire 0 0 4 = error 1", "wire -1 0 0 = error 1", "wire 0 -1 0 = error 1", "wire 0 0 -1 = error 1", "tell = tell 0 0",
 		"wire 0 1 3 = ok", "tell = tell 0", "wire 1 0 3 = ok", "tell = error 4", "wire 1 2 3 = ok", "tell = tell 0 0", "wire 2 2 3 = ok", "tell = error 4")
+	// each of these makes two states of the new machine equal
+	talk(t, New(), "wire 0 0 1 = ok", "tell = error 4")
+	talk(t, New(), "wire 1 1 0 = ok", "tell = error 4")
+	talk(t, New(), "wire 1 1 1 = ok", "tell = tell 0 0", "wire 2 2 0 = ok", "tell = tell 0 0", "wire 0 0 0 = ok", "tell = error 4")
 }
 
 func TestNil(t *testing.T) {

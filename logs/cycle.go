@@ -13,11 +13,9 @@ func cycles(n int) []cycle {
 	var out []cycle
 	for f := range factors(n) {
 		m := f.value()
-		switch {
-		case f == factor{2, 1}:
-		case m%8 == 0:
+		if m%8 == 0 {
 			out = append(out, cycle{m, m - 1, 2}, cycle{m, 5, m / 4})
-		default:
+		} else {
 			out = append(out, cycle{m, leastGenerator(m), units(m)})
 		}
 	}

@@ -468,6 +468,9 @@ func TestFactorAndWitness(t *testing.T) {
 		if ok == isPrime || !ok && a != 0 || e != api.OK {
 			t.Errorf("P7.9 of %d: %d, %t", n, a, ok)
 		}
+		if ok && (a < 2 || a >= n) {
+			t.Errorf("Witness of %d: %d", n, a)
+		}
 		last = a
 		if slow && !ok {
 			last = n

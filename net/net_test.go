@@ -313,7 +313,7 @@ func TestFlowsAreCounted(t *testing.T) {
 }
 
 func TestIsFlow(t *testing.T) {
-	for _, f := range [][]int{nil, {1, 2}, {1, 2, 0}, {1, 2, 1, 1}, {4, 2, 1}, {1, -1, 1}, {math.MinInt, 2, 1}, {1, 2, math.MaxInt}} {
+	for _, f := range [][]int{nil, {1, 2}, {1, 2, 0}, {0, 0, 0}, {3, 3, 3}, {1, 2, 1, 1}, {4, 2, 1}, {1, -1, 1}, {math.MinInt, 2, 1}, {1, 2, math.MaxInt}} {
 		if is, e := IsFlow(3, triangle.edges, 3, f); is || e != api.OK {
 			t.Errorf("IsFlow of %v: %t, %d", f, is, e)
 		}

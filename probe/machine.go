@@ -105,11 +105,8 @@ func apart(a, b Machine, start pair) ([]int, bool) {
 }
 
 func (m Machine) areEqual(p pair) bool {
-	if p == (pair{p.s, p.s}) {
-		return true
-	}
 	_, differ := apart(m, m, p)
-	return !differ
+	return p == pair{p.s, p.s} || !differ
 }
 
 // alike returns for each state the least one that is equal.
@@ -117,7 +114,7 @@ func (m Machine) alike() []int {
 	out := make([]int, m.states())
 	for s := range out {
 		var equal []int
-		for t := range s {
+		for t := range out {
 			if m.areEqual(pair{s, t}) {
 				equal = append(equal, t)
 			}

@@ -607,6 +607,23 @@ func TestHeight(t *testing.T) {
 			t.Errorf("Height of %v: %d, %d", x.p, h, e)
 		}
 	}
+	deep := question(0)
+	for range 60 {
+		deep = question(0, deep)
+	}
+	for extra, e := range map[int]api.Errno{38: api.OK, 39: api.ErrArg} {
+		long := deep
+		for range extra {
+			long = question(0, leaf(0), long)
+		}
+		want := 0
+		if e == api.OK {
+			want = 100
+		}
+		if h, f := Height(question(0, deep, long)); h != want || f != e {
+			t.Errorf("Height of parts that are shared: %d, %d, want %d", h, f, want)
+		}
+	}
 	high, shared := leaf(1), leaf(1)
 	for h := range 103 {
 		want, e := h, api.OK

@@ -69,6 +69,7 @@ func TestCheck(t *testing.T) {
 		{Ground{2, [][2]int{{-1, 1}}, nil}, api.ErrSlope}, {Ground{2, [][2]int{{0, 1}, {0, 1}}, nil}, api.ErrSlope}, {Ground{3, [][2]int{{0, 2}, {0, 1}}, nil}, api.ErrSlope},
 		{Ground{6, [][2]int{{0, 1}, {0, 2}, {0, 3}, {0, 4}, {0, 5}, {1, 2}, {1, 3}, {1, 4}, {1, 5}, {2, 3}, {2, 4}}, nil}, api.ErrSlope},
 		{Ground{3, triangle.Edges, [][3]int{{0, 2, 1}}}, api.ErrSlope}, {Ground{3, triangle.Edges, [][3]int{{0, 1, 2}, {0, 1, 2}}}, api.ErrSlope},
+		{Ground{3, [][2]int{{0, 1}, {1, 2}}, [][3]int{{0, 1, 2}}}, api.ErrSlope}, {Ground{3, triangle.Edges, [][3]int{{0, 0, 1}}}, api.ErrSlope},
 		{Ground{3, triangle.Edges[:2], [][3]int{{0, 1, 2}}}, api.ErrSlope}, {Ground{3, triangle.Edges[1:], [][3]int{{0, 1, 2}}}, api.ErrSlope},
 		{Ground{4, four.Edges, [][3]int{{0, 1, 3}, {0, 1, 2}}}, api.ErrSlope}, {Ground{4, four.Edges, [][3]int{{0, 1, 4}}}, api.ErrSlope},
 		{Ground{4, four.Edges, [][3]int{{math.MinInt, 1, math.MaxInt}}}, api.ErrSlope},

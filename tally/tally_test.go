@@ -423,6 +423,19 @@ func TestAnswers(t *testing.T) {
 	if k, ok, e := Answers(Majority(), Question{[]int{1, -1}, 0, 0}); ok || k[0] != k[1] || e != api.OK {
 		t.Errorf("Majority of as many: %v, %t", k, ok)
 	}
+	no := Protocol{1, []int{0}, []int{0, 0}, nil}
+	for _, x := range []struct {
+		q    Question
+		want string
+	}{{Question{[]int{1, 0}, 9, 0}, "[9 0]"}, {Question{[]int{0, 1}, 9, 0}, "[0 9]"}, {Question{[]int{4, 5}, 4, 9}, "[1 0]"}} {
+		if k, ok, e := Answers(no, x.q); fmt.Sprint(k) != x.want && x.q.M == 0 || ok || e != api.OK {
+			t.Errorf("Answers of no, %v: %v, %t", x.q, k, ok)
+		}
+	}
+	no.Start = []int{0}
+	if k, ok, e := Answers(no, Question{[]int{1}, 9, 0}); fmt.Sprint(k) != "[9]" || ok || e != api.OK {
+		t.Errorf("Answers of no: %v, %t", k, ok)
+	}
 	chance := rand.New(rand.NewSource(14))
 	for _, p := range protocols() {
 		q := Question{B: chance.Intn(7) - 3, M: chance.Intn(4)}
