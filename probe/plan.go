@@ -108,7 +108,8 @@ func (m Machine) ask() (Plan, bool) {
 		}
 		out := Plan{Input: best[set].input}
 		for _, then := range o.after(m, out.Input) {
-			out.Parts = append(out.Parts, plan(then))
+			part := plan(then)
+			out.Parts = append(out.Parts, part)
 		}
 		return out
 	}
